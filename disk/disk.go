@@ -174,11 +174,7 @@ func (d *Disk) move() bool {
 	return true
 }
 
-// within answers k, without its sign, modulo n. The sign goes last: the least int has no number without one.
+// within answers k modulo n, with k's bits read without a sign: a number below 0 stands for one from 2^63 on.
 func within(k, n int) int {
-	r := k % n
-	if r < 0 {
-		return -r
-	}
-	return r
+	return int(uint64(k) % uint64(n))
 }

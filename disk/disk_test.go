@@ -366,13 +366,13 @@ func TestCrashKeepsTheFirstFew(t *testing.T) {
 		{[]int{7, 3}, 13, 21},
 		{[]int{6, 2}, 12, 20},
 		{[]int{1, 1, 9, -9, 7}, 11, 21},
-		{[]int{-1, -1}, 11, 21},
+		{[]int{-1, -1}, 13, 21},
 		{[]int{-2, -2}, 12, 20},
-		{[]int{-3, -3}, 13, 21},
+		{[]int{-3, -3}, 11, 21},
 		{[]int{-4, -4}, 10, 20},
-		{[]int{-5, 1}, 11, 21},
+		{[]int{-5, 1}, 13, 21},
 		{[]int{math.MaxInt, math.MaxInt}, 13, 21},
-		{[]int{-math.MaxInt, -math.MaxInt}, 13, 21},
+		{[]int{-math.MaxInt, -math.MaxInt}, 11, 21},
 		{[]int{math.MinInt, math.MinInt}, 10, 20},
 	}
 	for _, c := range tests {
@@ -383,13 +383,59 @@ func TestCrashKeepsTheFirstFew(t *testing.T) {
 	}
 }
 
-// 1.2, P1: the least int has no counterpart above 0, but 2^63 modulo 3 is 2 all the same.
-func TestCrashKeepsByTheLeastNumber(t *testing.T) {
-	d := made(t, 1)
-	stores(t, d, 0, of(1))
-	stores(t, d, 0, of(2))
-	d.Crash(math.MinInt)
-	fetches(t, d, 0, of(2))
+// 1.2: a number's bits are read without a sign, so that one below 0 stands for itself and 2^64.
+func TestCrashReadsNumbersWithoutASign(t *testing.T) {
+	tests := []struct{ waiting, k, first int }{
+		{1, -1, 1},
+		{1, -2, 0},
+		{2, -1, 0},
+		{2, -2, 2},
+		{2, -3, 1},
+		{2, -4, 0},
+		{2, math.MinInt, 2},
+		{2, math.MinInt + 1, 0},
+		{2, math.MaxInt, 1},
+		{4, -1, 0},
+		{4, -2, 4},
+		{5, -1, 3},
+		{5, -4, 0},
+		{6, -1, 1},
+		{6, math.MinInt, 1},
+		{6, math.MaxInt, 0},
+	}
+	for _, c := range tests {
+		d := made(t, 1)
+		for v := range c.waiting {
+			stores(t, d, 0, number(v+1))
+		}
+		d.Crash(c.k)
+		fetches(t, d, 0, number(c.first))
+	}
+}
+
+// 1.2: numbers of all sizes and signs, with caches of many lengths, each against the sum of 2^64 and it.
+func TestCrashCountsFromTwoToThe64(t *testing.T) {
+	numbers := []int{math.MinInt, math.MinInt + 1, math.MinInt + 2, math.MaxInt - 1, math.MaxInt}
+	for k := -40; k <= 40; k++ {
+		numbers = append(numbers, k)
+	}
+	for waiting := 1; waiting <= 12; waiting++ {
+		for _, k := range numbers {
+			d := made(t, 2)
+			for v := range waiting {
+				stores(t, d, 0, number(v+1))
+				stores(t, d, 1, number(v+50))
+			}
+			d.Crash(0, k)
+			first := signless(k, waiting+1)
+			want := noughts(1)
+			if first > 0 {
+				want = number(first + 49)
+			}
+			fetches(t, d, 0, noughts(1))
+			fetches(t, d, 1, want)
+		}
+	}
 }
 
 // The chapter's example 1.
