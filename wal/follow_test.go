@@ -381,7 +381,7 @@ func numbers(g *rand.Rand, n int) []int {
 // taken; ok tells whether there is a head.
 func plainRecords(b []byte) (records []string, used int, epoch uint32, ok bool) {
 	from, e, ok := plainRecord(b[:api.Sector])
-	if !ok || len(from) != 4 || binary.BigEndian.Uint32(from) > e {
+	if !ok || len(from) != 4 {
 		return nil, 0, 0, false
 	}
 	last, ended, open := binary.BigEndian.Uint32(from), true, ""
@@ -424,7 +424,7 @@ func TestSectorsOfAllKinds(t *testing.T) {
 	heads := 0
 	for seed := range int64(4000) {
 		g := rand.New(rand.NewSource(seed))
-		sectors := [][]byte{headOf(uint32(1+g.Intn(5)), uint32(g.Intn(4)))}
+		sectors := [][]byte{headOf(uint32(1+g.Intn(5)), uint32(g.Intn(6)))}
 		epoch := 1 + g.Intn(3)
 		for n := range 2 + g.Intn(6) {
 			if g.Intn(4) == 0 {
@@ -443,6 +443,9 @@ func TestSectorsOfAllKinds(t *testing.T) {
 				s[g.Intn(api.Sector)] ^= byte(1 << g.Intn(8))
 			}
 			sectors = append(sectors, s)
+		}
+		if g.Intn(20) == 0 {
+			sectors[0][g.Intn(api.Sector)] ^= byte(1 << g.Intn(8))
 		}
 		d := loaded(t, sectors...)
 		records, used, now, ok := plainRecords(d.Dump())

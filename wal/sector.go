@@ -17,7 +17,7 @@ const (
 // head is what a log's first sector tells: the epoch now, and that from which on sectors count.
 type head struct{ epoch, from int }
 
-// can holds if a head can tell its epoch, and so its from-epoch, which is not above it.
+// can holds if a head can tell its epoch; its from-epoch is one that a head has told, or is not above it.
 func (h head) can() bool { return h.epoch <= math.MaxUint32 }
 
 func (h head) value() []byte { return sealed(h.epoch, number(h.from)) }
@@ -27,8 +27,8 @@ func headOf(b []byte) (head, bool) {
 	if !ok || len(r.Data) != numberSize {
 		return head{}, false
 	}
-	h := head{epoch: r.Epoch, from: numbered(r.Data)}
-	return h, h.from <= h.epoch
+	// The form alone makes a head: behind one whose from-epoch is above its epoch just no sector counts.
+	return head{epoch: r.Epoch, from: numbered(r.Data)}, true
 }
 
 // start answers what stands for the sector ahead of the first one: one behind which all may come that is not too old.

@@ -273,8 +273,6 @@ func noHeads() map[string][]byte {
 		"a byte at the end":        far,
 		"a record behind":          filled(append(record(2, number(1)), record(2, "")...)),
 		"a record's sector":        ends(2, 0, "a"),
-		"from-epoch above, by 1":   headOf(2, 3),
-		"from-epoch above":         headOf(0, math.MaxUint32),
 		"a head a byte on":         append([]byte{0}, headOf(2, 1)[:api.Sector-1]...),
 		"more than MaxRecord":      append([]byte{0, 0, 0x10, 1}, headOf(2, 1)[4:]...),
 		"more than the sector":     append([]byte{0, 0, 1, 0}, headOf(2, 1)[4:]...),
@@ -305,6 +303,7 @@ func TestOpenStoresTheNextHead(t *testing.T) {
 	heads := []struct{ epoch, from uint32 }{
 		{0, 0}, {1, 0}, {1, 1}, {2, 1}, {7, 7}, {255, 255}, {256, 255}, {1 << 24, 1 << 16},
 		{math.MaxInt32, 1}, {1 << 31, 1 << 31}, {math.MaxUint32 - 1, 0}, {math.MaxUint32 - 1, math.MaxUint32 - 1},
+		{0, 1}, {1, 2}, {2, 9}, {0, math.MaxUint32}, {255, 256}, {math.MaxUint32 - 1, math.MaxUint32},
 	}
 	for _, h := range heads {
 		mark := bytes.Repeat([]byte{0xa5}, api.Sector)
@@ -315,6 +314,32 @@ func TestOpenStoresTheNextHead(t *testing.T) {
 		is(t, "Cached", len(d.Cached()), 0)
 		hasBytes(t, "Dump", d.Dump(), slices.Concat(mark, headOf(h.epoch+1, h.from), mark, mark, mark))
 	}
+}
+
+// 4.1, Words: a head whose from-epoch is above its epoch is one; no sector counts till its epoch has come up to that.
+func TestHeadWhoseFromEpochIsAbove(t *testing.T) {
+	for epoch := range uint32(6) {
+		d := loaded(t, headOf(2, 4), ends(epoch, 0, "a"), filled(nil))
+		l := opened(t, d, 0, 3)
+		tells(t, l, nil, 0, 2, 3)
+		appends(t, l, "b")
+		tells(t, l, []string{"b"}, 0, 1, 3)
+		is(t, "Flush", l.Flush(), api.OK)
+		hasBytes(t, "Dump", d.Dump(), slices.Concat(headOf(3, 4), ends(3, 0, "b"), filled(nil)))
+		l = opened(t, d, 0, 3)
+		tells(t, l, nil, 0, 2, 4)
+		appends(t, l, "c")
+		is(t, "Flush", l.Flush(), api.OK)
+		l = opened(t, d, 0, 3)
+		tells(t, l, []string{"c"}, 1, 1, 5)
+		is(t, "Reset", l.Reset(), api.OK)
+		hasBytes(t, "Dump", d.Dump(), slices.Concat(headOf(6, 6), ends(4, 0, "c"), filled(nil)))
+	}
+	d := loaded(t, headOf(2, 4), filled(nil))
+	l := opened(t, d, 0, 2)
+	is(t, "Reset", l.Reset(), api.OK)
+	tells(t, l, nil, 0, 1, 4)
+	hasBytes(t, "Dump", d.Dump(), slices.Concat(headOf(4, 4), filled(nil)))
 }
 
 // 4.1, Errors: behind the greatest epoch comes none that can be.
