@@ -33,8 +33,8 @@ func (s *span) putNumber(k, n int) {
 // isSize holds for the numbers of bytes that a number may have.
 func isSize(k int) bool { return k == 1 || k == 2 || k == 4 || k == 8 }
 
-// fitsU holds if n is a number of k bytes without a sign: no bit is set beyond them, not even that of the sign, of which
-// a shift makes as many as it needs.
+// fitsU holds if n is a number of k bytes without a sign: no bit is set beyond them. Below 0 some are, however far n is
+// shifted.
 func fitsU(k, n int) bool { return n>>(8*k) == 0 }
 
 // fitsS holds if n is a number of k bytes with a sign: all bits beyond them are as their highest.
